@@ -153,37 +153,25 @@ func TestP12CopiesGoTheirOwnWay(t *testing.T) {
 		func(d *disk.Disk) { d.Fail(1) },
 	}
 	for i, do := range change {
-		d := files(t, 100, "a", "aaaa", "b", "bbbb")
-		fine(t, d.Write("a", 0, []byte("x")))
-		fine(t, d.Rename("b", "c"))
-		fine(t, d.Create("b"))
-		c, ops := d.Copy(), d.Ops()
-		do(c)
-		do(c)
-		if d.Ops() != ops {
-			t.Errorf("%d: Ops", i)
+		for _, other := range []bool{false, true} {
+			d := files(t, 100, "a", "aaaa", "b", "bbbb")
+			fine(t, d.Write("a", 0, []byte("x")))
+			fine(t, d.Rename("b", "c"))
+			fine(t, d.Create("b"))
+			c, ops := d.Copy(), d.Ops()
+			if other {
+				c, d = d, c
+			}
+			do(c)
+			do(c)
+			if d.Ops() != ops {
+				t.Errorf("%d: %d operations, not %d", i, d.Ops(), ops)
+			}
+			holds(t, d, "a=xaaa;b=;c=bbbb;")
+			fine(t, d.Write("a", 3, []byte("z")))
+			d.Crash([]byte{0, 2})
+			holds(t, d, "a=aaaz;b=bbbb;")
 		}
-		holds(t, d, "a=xaaa;b=;c=bbbb;")
-		fine(t, d.Write("a", 3, []byte("z")))
-		d.Crash([]byte{0, 2})
-		holds(t, d, "a=aaaz;b=bbbb;")
-	}
-	// and the other way round
-	for i, do := range change {
-		d := files(t, 100, "a", "aaaa", "b", "bbbb")
-		fine(t, d.Write("a", 0, []byte("x")))
-		fine(t, d.Rename("b", "c"))
-		fine(t, d.Create("b"))
-		c, ops := d.Copy(), d.Ops()
-		do(d)
-		do(d)
-		if c.Ops() != ops {
-			t.Errorf("%d: Ops", i)
-		}
-		holds(t, c, "a=xaaa;b=;c=bbbb;")
-		fine(t, c.Write("a", 3, []byte("z")))
-		c.Crash([]byte{0, 2})
-		holds(t, c, "a=aaaz;b=bbbb;")
 	}
 }
 
