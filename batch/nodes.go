@@ -8,14 +8,14 @@ import (
 
 // opened tells what is in p. What lies nowhere, fresh or empty, has but its row.
 func (u *update) opened(p part) (row, api.Errno) {
-	if p.ref == (api.Ref{}) {
+	if place.IsEmpty(p.ref) {
 		return p.row, api.OK
 	}
-	n, e := p.at.Read(u.f, p.ref)
+	n, e := p.at.Kept(u.f, p.ref)
 	if e != api.OK {
 		return row{}, e
 	}
-	if !p.at.MayHave(n) || !u.isEven(n.Leaf, p.at.Deep()) {
+	if !u.isEven(n.Leaf, p.at.Deep()) {
 		return row{}, api.ErrForm
 	}
 	r := row{items: n.Items}

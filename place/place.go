@@ -30,6 +30,9 @@ type Place struct {
 	bound []byte // what all its keys have to be below (none: whatever they are)
 }
 
+// IsEmpty tells whether r is a tree that has nothing, and lies nowhere.
+func IsEmpty(r api.Ref) bool { return r == api.Ref{} }
+
 // Root tells the place of a root.
 func Root() Place { return Place{deep: top} }
 
@@ -52,9 +55,18 @@ func (p Place) Read(f *file.File, r api.Ref) (api.Node, api.Errno) {
 	return n, api.OK
 }
 
-// MayHave tells whether n keeps to the place. Of a root nothing is asked beyond
+// Kept tells the node that r says, which lies at p and has to keep to it.
+func (p Place) Kept(f *file.File, r api.Ref) (api.Node, api.Errno) {
+	n, e := p.Read(f, r)
+	if e == api.OK && !p.mayHave(n) {
+		return api.Node{}, api.ErrForm
+	}
+	return n, e
+}
+
+// mayHave tells whether n keeps to the place. Of a root nothing is asked beyond
 // that it is a node.
-func (p Place) MayHave(n api.Node) bool {
+func (p Place) mayHave(n api.Node) bool {
 	keys := Keys(n)
 	return p.deep == top || len(keys) >= api.Least && bytes.Equal(keys[0], p.least) && p.IsAbove(keys[len(keys)-1])
 }

@@ -87,35 +87,70 @@ func TestReadHowDeep(t *testing.T) {
 	}
 }
 
-func TestMayHave(t *testing.T) {
-	for _, n := range []api.Node{leafOf("a"), leafOf("abcdefgh"), innerOf("ab"), innerOf("zz")} {
-		if !place.Root().MayHave(n) {
-			t.Errorf("a root: %v", n)
-		}
+// kept: at p lies n, which keeps to its place or not.
+func kept(t *testing.T, f *file.File, p place.Place, n api.Node, keeps bool) {
+	t.Helper()
+	r := api.Ref{Off: written(t, f, place.NodeKind, node.Put(n)), Count: node.Count(n)}
+	want, no := n, api.OK
+	if !keeps {
+		want, no = api.Node{}, api.ErrForm
+	}
+	if got, e := p.Kept(f, r); !node.Same(got, want) || e != no {
+		t.Errorf("%v: %v, %d", n, got, e)
+	}
+	if got, e := p.Read(f, r); !node.Same(got, n) || e != api.OK {
+		t.Errorf("%v: it reads %v, %d", n, got, e)
+	}
+}
+
+func TestKept(t *testing.T) {
+	f, _ := file.Create(disk.New(1<<16), "f")
+	for _, n := range []api.Node{leafOf("a"), leafOf("abcdefgh"), innerOf("ab"), innerOf("yz")} {
+		kept(t, f, place.Root(), n, true)
 	}
 	// the places of the kids of a kid that is not the last one
 	kids := place.Root().Kids(innerOf("cz"))[0].Kids(innerOf("chm"))
 	for i, want := range []struct{ may, not []string }{
-		{[]string{"cdef", "cdefg", "cefg"}, []string{"c", "cde", "bcde", "defg", "cdeh", "cdei"}},
-		{[]string{"hijk", "hijkl"}, []string{"h", "hij", "ghij", "ijkl", "hijm", "hijz"}},
-		{[]string{"mnop", "mwxy", "mnopqrst"}, []string{"m", "mno", "lmno", "nopq", "mnoz", "mno~"}},
+		{[]string{"cdef", "cdefg", "cefg"}, []string{"cd", "cde", "bcde", "defg", "cdeh", "cdei"}},
+		{[]string{"hijk", "hijkl"}, []string{"hi", "hij", "ghij", "ijkl", "hijm", "hijz"}},
+		{[]string{"mnop", "mwxy", "mnopqrst"}, []string{"mn", "mno", "lmno", "nopq", "mnoz", "mno~"}},
 	} {
 		for _, keys := range want.may {
-			if !kids[i].MayHave(leafOf(keys)) || !kids[i].MayHave(innerOf(keys)) {
-				t.Errorf("the %d-th: %s", i, keys)
-			}
+			kept(t, f, kids[i], leafOf(keys), true)
+			kept(t, f, kids[i], innerOf(keys), true)
 		}
 		for _, keys := range want.not {
-			if kids[i].MayHave(leafOf(keys)) || kids[i].MayHave(innerOf(keys)) {
-				t.Errorf("the %d-th: %s", i, keys)
-			}
-		}
-		if kids[i].MayHave(api.Node{}) || kids[i].MayHave(api.Node{Leaf: true}) {
-			t.Errorf("the %d-th: nothing", i)
+			kept(t, f, kids[i], leafOf(keys), false)
+			kept(t, f, kids[i], innerOf(keys), false)
 		}
 	}
-	if last := place.Root().Kids(innerOf("cz"))[1].Kids(innerOf("z~"))[1]; !last.MayHave(leafOf("~\x7f\x80\xff")) || last.MayHave(leafOf("\x7f\x80\xfe\xff")) {
-		t.Error("behind the last key there is no bound")
+	last := place.Root().Kids(innerOf("cz"))[1].Kids(innerOf("z~"))[1] // behind the last key there is no bound
+	kept(t, f, last, leafOf("~\x7f\x80\xff"), true)
+	kept(t, f, last, leafOf("\x7f\x80\xfe\xff"), false)
+}
+
+func TestKeptOfWhatIsNotRead(t *testing.T) {
+	d := disk.New(1 << 16)
+	f, _ := file.Create(d, "f")
+	r := api.Ref{Off: written(t, f, place.NodeKind, node.Put(leafOf("ab"))), Count: 2}
+	for _, bad := range []api.Ref{{Off: r.Off, Count: 3}, {Off: r.Off + 1, Count: 2}, {}} {
+		if got, e := place.Root().Kept(f, bad); !node.Same(got, api.Node{}) || e != api.ErrForm {
+			t.Errorf("%v: %v, %d", bad, got, e)
+		}
+	}
+	for _, p := range append(place.Root().Kids(innerOf("bc")), place.Root()) { // too small for a kid, and elsewhere
+		d.Fail(1)
+		if got, e := p.Kept(f, r); !node.Same(got, api.Node{}) || e != api.ErrIO {
+			t.Errorf("%v, %d", got, e)
+		}
+	}
+}
+
+func TestIsEmpty(t *testing.T) {
+	for r, want := range map[api.Ref]bool{{}: true, {Off: 1}: false, {Count: 1}: false, {Off: 256, Count: 9}: false, {Off: -1}: false} {
+		if place.IsEmpty(r) != want {
+			t.Errorf("%v", r)
+		}
 	}
 }
 

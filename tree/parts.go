@@ -6,8 +6,6 @@ import (
 	"pandect/api"
 )
 
-func isEmpty(r api.Ref) bool { return r == api.Ref{} }
-
 // A finding is what was seen of a part of a tree: how deep its leaves lie (0: none
 // was seen), and what is wrong.
 type finding struct {
